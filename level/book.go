@@ -1,0 +1,173 @@
+package level
+
+import (
+	"strconv"
+	"strings"
+
+	"quinaria/api"
+)
+
+// word is the first word of a line of a book.
+type word int
+
+const (
+	surveyWord word = iota
+	sightWord
+	endWord
+	noWord
+)
+
+// The lines of a book.
+type (
+	surveyLine struct{ stations int }
+	sightLine  struct{ api.LevelSight }
+	endLine    struct{ check string }
+)
+
+// notBook is what reading gives up with: the text is not a book.
+type notBook struct{}
+
+// checkRest is a prime, so that a digit that was changed changes the rest.
+const checkRest = 149
+
+const longestNumber = 4
+
+// Print returns the book of a survey.
+func Print(s api.LevelSurvey) (string, api.Errno) {
+	if Check(s) != api.OK {
+		return "", api.ErrArg
+	}
+	lines := []string{textOf(surveyWord, s.Stations)}
+	for _, x := range s.Sights {
+		lines = append(lines, textOf(sightWord, x.From, x.To, x.Rise, x.Off))
+	}
+	lines = append(lines, endWord.text()+" "+checkOf(lines))
+	return strings.Join(lines, "\n") + "\n", api.OK
+}
+
+// Read returns the survey of a book.
+func Read(text string) (s api.LevelSurvey, e api.Errno) {
+	if len(text) > api.LevelText {
+		return api.LevelSurvey{}, api.ErrLong
+	}
+	defer func() {
+		if _, is := recover().(notBook); is {
+			s, e = api.LevelSurvey{}, api.ErrText
+		}
+	}()
+	s = surveyOf(text)
+	if Check(s) != api.OK {
+		return api.LevelSurvey{}, api.ErrArg
+	}
+	return s, api.OK
+}
+
+// surveyOf returns what a text tells, or gives up if it has not the form of a book.
+func surveyOf(text string) (s api.LevelSurvey) {
+	text, ended := strings.CutSuffix(text, "\n")
+	must(ended)
+	lines := strings.Split(text, "\n")
+	last := len(lines) - 1
+	must(last > 0)
+	for i, line := range lines {
+		switch x := lineOf(line).(type) {
+		case surveyLine:
+			must(i == 0)
+			s.Stations = x.stations
+		case sightLine:
+			must(0 < i && i < last)
+			s.Sights = append(s.Sights, x.LevelSight)
+		case endLine:
+			must(i == last && x.check == checkOf(lines[:last]))
+		}
+	}
+	return s
+}
+
+func must(right bool) {
+	if !right {
+		panic(notBook{})
+	}
+}
+
+// lineOf returns the line of a text, or gives up if it is none.
+func lineOf(text string) any {
+	words := strings.Split(text, " ")
+	first := wordOf(words[0])
+	must(len(words) == 1+first.count())
+	if first == endWord {
+		return endLine{words[1]}
+	}
+	var numbers []int
+	for _, x := range words[1:] {
+		numbers = append(numbers, numberOf(x))
+	}
+	if first == surveyWord {
+		return surveyLine{numbers[0]}
+	}
+	return sightLine{api.LevelSight{From: numbers[0], To: numbers[1], Rise: numbers[2], Off: numbers[3]}}
+}
+
+// wordOf returns the word of a text, or gives up if it is none.
+func wordOf(text string) word {
+	for w := range noWord {
+		if w.text() == text {
+			return w
+		}
+	}
+	panic(notBook{})
+}
+
+func (w word) text() string {
+	switch w {
+	case surveyWord:
+		return "survey"
+	case sightWord:
+		return "sight"
+	}
+	return "end"
+}
+
+// count returns how many further words there are in a line.
+func (w word) count() int {
+	if w == sightWord {
+		return 4
+	}
+	return 1
+}
+
+// numberOf returns the number of a text, or gives up if it is none.
+func numberOf(text string) int {
+	digits, minus := strings.CutPrefix(text, "-")
+	must(isFrom(1, longestNumber, len(digits)))
+	must(digits[0] != '0' || text == "0")
+	n := 0
+	for _, digit := range digits {
+		must('0' <= digit && digit <= '9')
+		n = 10*n + int(digit-'0')
+	}
+	if minus {
+		return -n
+	}
+	return n
+}
+
+func textOf(w word, numbers ...int) string {
+	text := w.text()
+	for _, n := range numbers {
+		text += " " + strconv.Itoa(n)
+	}
+	return text
+}
+
+// checkOf returns the CHECK of lines.
+func checkOf(lines []string) string {
+	rest := 0
+	for i, line := range lines {
+		for j := range len(line) {
+			rest = (rest + int(line[j])*(j+1)*(i+1)) % checkRest
+		}
+	}
+	digits := strconv.Itoa(rest)
+	return strings.Repeat("0", 3-len(digits)) + digits
+}
