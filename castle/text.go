@@ -2,10 +2,9 @@ package castle
 
 import (
 	"slices"
-	"strconv"
-	"strings"
 
 	"quinaria/api"
+	"quinaria/written"
 )
 
 // kind is a kind of lines of a text.
@@ -14,18 +13,14 @@ type kind int
 const (
 	castleKind kind = iota
 	nozzleKind
-	endKind
 )
 
 // word returns the first word of a line of a kind.
 func (k kind) word() string {
-	switch k {
-	case castleKind:
+	if k == castleKind {
 		return "castle"
-	case nozzleKind:
-		return "nozzle"
 	}
-	return "end"
+	return "nozzle"
 }
 
 // line is a line of a text, but for the last one.
@@ -37,13 +32,13 @@ type line interface {
 
 type castleLine struct{ weir, spill int }
 
-func (x castleLine) text() string { return textOf(castleKind, x.weir, x.spill) }
+func (x castleLine) text() string { return written.Line(castleKind.word(), x.weir, x.spill) }
 
 func (x castleLine) addTo(b *api.CastleBasin) { b.Weir, b.Spill = x.weir, x.spill }
 
 type nozzleLine api.CastleNozzle
 
-func (x nozzleLine) text() string { return textOf(nozzleKind, x.Row, x.Height) }
+func (x nozzleLine) text() string { return written.Line(nozzleKind.word(), x.Row, x.Height) }
 
 func (x nozzleLine) addTo(b *api.CastleBasin) { b.Nozzles = append(b.Nozzles, api.CastleNozzle(x)) }
 
@@ -68,28 +63,7 @@ func Print(b api.CastleBasin) (string, api.Errno) {
 	for _, x := range lines {
 		texts = append(texts, x.text())
 	}
-	texts = append(texts, endOf(texts))
-	return strings.Join(texts, "\n") + "\n", api.OK
-}
-
-func textOf(k kind, numbers ...int) string {
-	text := k.word()
-	for _, n := range numbers {
-		text += " " + strconv.Itoa(n)
-	}
-	return text
-}
-
-// endOf returns the last line of a text, after the lines before it.
-func endOf(texts []string) string {
-	rest := 0
-	for i, text := range texts {
-		for j := range len(text) {
-			rest = (rest + int(text[j])*(j+1)*(i+1)) % checkRest
-		}
-	}
-	digits := strconv.Itoa(rest)
-	return endKind.word() + " " + strings.Repeat("0", 3-len(digits)) + digits
+	return written.Text(texts, checkRest), api.OK
 }
 
 // Read returns the castle of a text, with a table.
@@ -109,12 +83,9 @@ func Read(t api.NozzleTable, text string) (b api.CastleBasin, e api.Errno) {
 
 // castleOf returns what a text tells, or gives up if it has not the form.
 func castleOf(text string) (b api.CastleBasin) {
-	text, ended := strings.CutSuffix(text, "\n")
-	must(ended)
-	texts := strings.Split(text, "\n")
-	last := len(texts) - 1
-	must(last > 0 && texts[last] == endOf(texts[:last]))
-	for i, text := range texts[:last] {
+	texts, right := written.Lines(text, checkRest)
+	must(right)
+	for i, text := range texts {
 		lineOf(i, text).addTo(&b)
 	}
 	return b
@@ -132,21 +103,9 @@ func lineOf(place int, text string) line {
 
 // numbersOf returns both numbers of a line, or gives up if it is not a line of this kind.
 func numbersOf(k kind, text string) (first, second int) {
-	words := strings.Split(text, " ")
-	must(len(words) == 3 && words[0] == k.word())
-	return numberOf(words[1]), numberOf(words[2])
-}
-
-// numberOf returns the number of some digits, or gives up if they are none.
-func numberOf(digits string) int {
-	must(isFrom(1, longestNumber, len(digits)))
-	must(digits[0] != '0' || digits == "0")
-	n := 0
-	for _, digit := range digits {
-		must('0' <= digit && digit <= '9')
-		n = 10*n + int(digit-'0')
-	}
-	return n
+	n, right := written.Numbers(text, k.word(), longestNumber)
+	must(right && len(n) == 2)
+	return n[0], n[1]
 }
 
 func must(right bool) {

@@ -1,10 +1,8 @@
 package channel
 
 import (
-	"strconv"
-	"strings"
-
 	"quinaria/api"
+	"quinaria/written"
 )
 
 // textLine is a line of a text, but for the last one.
@@ -16,14 +14,14 @@ type textLine interface {
 
 type speedsLine []int
 
-func (x speedsLine) text() string { return textOf(speedsWord, x...) }
+func (x speedsLine) text() string { return written.Line(speedsWord, x...) }
 
 func (x speedsLine) addTo(l *api.ChannelLine) { l.Speeds = append(l.Speeds, x...) }
 
 type stretchLine api.ChannelStretch
 
 func (x stretchLine) text() string {
-	return textOf(stretchWord, x.Breadth, x.Depth, x.Fall, x.Lime.Low, x.Lime.High)
+	return written.Line(stretchWord, x.Breadth, x.Depth, x.Fall, x.Lime.Low, x.Lime.High)
 }
 
 func (x stretchLine) addTo(l *api.ChannelLine) {
@@ -33,7 +31,6 @@ func (x stretchLine) addTo(l *api.ChannelLine) {
 const (
 	speedsWord  = "speeds"
 	stretchWord = "stretch"
-	endWord     = "end"
 )
 
 // checkRest is a prime, so that a digit that was changed changes the rest.
@@ -57,8 +54,7 @@ func Print(l api.ChannelLine) (string, api.Errno) {
 	for _, x := range lines {
 		texts = append(texts, x.text())
 	}
-	texts = append(texts, endOf(texts))
-	return strings.Join(texts, "\n") + "\n", api.OK
+	return written.Text(texts, checkRest), api.OK
 }
 
 // Read returns the line of a text.
@@ -77,12 +73,9 @@ func Read(text string) (l api.ChannelLine, e api.Errno) {
 
 // lineOf returns what a text tells, or gives up if it has not the form.
 func lineOf(text string) (l api.ChannelLine) {
-	text, ended := strings.CutSuffix(text, "\n")
-	must(ended)
-	texts := strings.Split(text, "\n")
-	last := len(texts) - 1
-	must(last > 0 && texts[last] == endOf(texts[:last]))
-	for i, text := range texts[:last] {
+	texts, right := written.Lines(text, checkRest)
+	must(right)
+	for i, text := range texts {
 		textLineOf(i, text).addTo(&l)
 	}
 	return l
@@ -99,48 +92,14 @@ func textLineOf(place int, text string) textLine {
 }
 
 // numbersOf returns the numbers after the first word of a line, or gives up if it is not such a line.
-func numbersOf(word, text string) (numbers []int) {
-	words := strings.Split(text, " ")
-	must(words[0] == word)
-	for _, digits := range words[1:] {
-		numbers = append(numbers, numberOf(digits))
-	}
+func numbersOf(word, text string) []int {
+	numbers, right := written.Numbers(text, word, longestNumber)
+	must(right)
 	return numbers
-}
-
-// numberOf returns the number of some digits, or gives up if they are none.
-func numberOf(digits string) int {
-	must(isFrom(1, longestNumber, len(digits)))
-	must(digits[0] != '0' || digits == "0")
-	n := 0
-	for _, digit := range digits {
-		must('0' <= digit && digit <= '9')
-		n = 10*n + int(digit-'0')
-	}
-	return n
 }
 
 func must(right bool) {
 	if !right {
 		panic(noText{})
 	}
-}
-
-func textOf(word string, numbers ...int) string {
-	for _, n := range numbers {
-		word += " " + strconv.Itoa(n)
-	}
-	return word
-}
-
-// endOf returns the last line of a text, after the lines before it.
-func endOf(texts []string) string {
-	rest := 0
-	for i, text := range texts {
-		for j := range len(text) {
-			rest = (rest + int(text[j])*(j+1)*(i+1)) % checkRest
-		}
-	}
-	digits := strconv.Itoa(rest)
-	return endWord + " " + strings.Repeat("0", 3-len(digits)) + digits
 }

@@ -1,10 +1,10 @@
 package level
 
 import (
-	"strconv"
 	"strings"
 
 	"quinaria/api"
+	"quinaria/written"
 )
 
 // word is the first word of a line of a book.
@@ -13,7 +13,6 @@ type word int
 const (
 	surveyWord word = iota
 	sightWord
-	endWord
 	noWord
 )
 
@@ -21,7 +20,6 @@ const (
 type (
 	surveyLine struct{ stations int }
 	sightLine  struct{ api.LevelSight }
-	endLine    struct{ check string }
 )
 
 // notBook is what reading gives up with: the text is not a book.
@@ -37,12 +35,11 @@ func Print(s api.LevelSurvey) (string, api.Errno) {
 	if Check(s) != api.OK {
 		return "", api.ErrArg
 	}
-	lines := []string{textOf(surveyWord, s.Stations)}
+	lines := []string{written.Line(surveyWord.text(), s.Stations)}
 	for _, x := range s.Sights {
-		lines = append(lines, textOf(sightWord, x.From, x.To, x.Rise, x.Off))
+		lines = append(lines, written.Line(sightWord.text(), x.From, x.To, x.Rise, x.Off))
 	}
-	lines = append(lines, endWord.text()+" "+checkOf(lines))
-	return strings.Join(lines, "\n") + "\n", api.OK
+	return written.Text(lines, checkRest), api.OK
 }
 
 // Read returns the survey of a book.
@@ -64,21 +61,16 @@ func Read(text string) (s api.LevelSurvey, e api.Errno) {
 
 // surveyOf returns what a text tells, or gives up if it has not the form of a book.
 func surveyOf(text string) (s api.LevelSurvey) {
-	text, ended := strings.CutSuffix(text, "\n")
-	must(ended)
-	lines := strings.Split(text, "\n")
-	last := len(lines) - 1
-	must(last > 0)
+	lines, right := written.Lines(text, checkRest)
+	must(right)
 	for i, line := range lines {
 		switch x := lineOf(line).(type) {
 		case surveyLine:
 			must(i == 0)
 			s.Stations = x.stations
 		case sightLine:
-			must(0 < i && i < last)
+			must(i > 0)
 			s.Sights = append(s.Sights, x.LevelSight)
-		case endLine:
-			must(i == last && x.check == checkOf(lines[:last]))
 		}
 	}
 	return s
@@ -95,9 +87,6 @@ func lineOf(text string) any {
 	words := strings.Split(text, " ")
 	first := wordOf(words[0])
 	must(len(words) == 1+first.count())
-	if first == endWord {
-		return endLine{words[1]}
-	}
 	var numbers []int
 	for _, x := range words[1:] {
 		numbers = append(numbers, numberOf(x))
@@ -119,13 +108,10 @@ func wordOf(text string) word {
 }
 
 func (w word) text() string {
-	switch w {
-	case surveyWord:
+	if w == surveyWord {
 		return "survey"
-	case sightWord:
-		return "sight"
 	}
-	return "end"
+	return "sight"
 }
 
 // count returns how many further words there are in a line.
@@ -139,35 +125,11 @@ func (w word) count() int {
 // numberOf returns the number of a text, or gives up if it is none.
 func numberOf(text string) int {
 	digits, minus := strings.CutPrefix(text, "-")
-	must(isFrom(1, longestNumber, len(digits)))
-	must(digits[0] != '0' || text == "0")
-	n := 0
-	for _, digit := range digits {
-		must('0' <= digit && digit <= '9')
-		n = 10*n + int(digit-'0')
-	}
+	n, right := written.Number(digits, longestNumber)
+	must(right)
 	if minus {
+		must(n > 0)
 		return -n
 	}
 	return n
-}
-
-func textOf(w word, numbers ...int) string {
-	text := w.text()
-	for _, n := range numbers {
-		text += " " + strconv.Itoa(n)
-	}
-	return text
-}
-
-// checkOf returns the CHECK of lines.
-func checkOf(lines []string) string {
-	rest := 0
-	for i, line := range lines {
-		for j := range len(line) {
-			rest = (rest + int(line[j])*(j+1)*(i+1)) % checkRest
-		}
-	}
-	digits := strconv.Itoa(rest)
-	return strings.Repeat("0", 3-len(digits)) + digits
 }
