@@ -20,10 +20,16 @@ func Text(lines []string, modulus int) string {
 // Lines returns all lines of a text but the last one, and whether this is the
 // one that they should have. At least one line is before it.
 func Lines(text string, modulus int) (lines []string, right bool) {
+	lines, right = LinesOrNone(text, modulus)
+	return lines, right && len(lines) > 0
+}
+
+// LinesOrNone does as Lines, of texts whose last line can be the only one.
+func LinesOrNone(text string, modulus int) (lines []string, right bool) {
 	text, ended := strings.CutSuffix(text, "\n")
 	lines = strings.Split(text, "\n")
 	last := len(lines) - 1
-	if !ended || last == 0 || lines[last] != endOf(lines[:last], modulus) {
+	if !ended || lines[last] != endOf(lines[:last], modulus) {
 		return nil, false
 	}
 	return lines[:last], true

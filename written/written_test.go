@@ -45,6 +45,17 @@ func TestWrongLines(t *testing.T) {
 	}
 }
 
+// A last line alone is right only where there can be no lines before it.
+func TestLinesOrNone(t *testing.T) {
+	for _, x := range []string{"end 000\n", "\nend 000\n", "line 1 1 0\nend 051\n", "end 001\n", "end 000", "end 000\n\n", "\n", ""} {
+		lines, right := written.Lines(x, 157)
+		others, rightToo := written.LinesOrNone(x, 157)
+		if rightToo != (right || x == "end 000\n") || !slices.Equal(lines, others) {
+			t.Errorf("%q: %q %v %q %v", x, lines, right, others, rightToo)
+		}
+	}
+}
+
 // A list of lines with room behind them is not written to.
 func TestTextChangesNothing(t *testing.T) {
 	lines := []string{"one", "two"}
